@@ -135,8 +135,7 @@ func (r *reader) end(name string) api.Errno {
 func (r *reader) attributes() ([]api.Header, api.Errno) {
 	var attrs []api.Header
 	seen := map[string]struct{}{}
-	for {
-		r.white()
+	for r.white() { // each has some ahead of it: side by side they are wrong
 		name := r.name()
 		if name == "" {
 			return attrs, api.OK
@@ -154,6 +153,7 @@ func (r *reader) attributes() ([]api.Header, api.Errno) {
 		seen[name] = struct{}{}
 		attrs = append(attrs, api.Header{Name: name, Value: value})
 	}
+	return attrs, api.OK
 }
 
 // value reads what stands behind an attribute's name.
@@ -258,8 +258,11 @@ func (r *reader) name() string {
 	return name
 }
 
-func (r *reader) white() {
+// white reads what there is of it, and tells whether there is any.
+func (r *reader) white() bool {
+	size := len(r.rest)
 	r.rest = strings.TrimLeft(r.rest, white)
+	return len(r.rest) < size
 }
 
 func (r *reader) at(mark string) bool {

@@ -27,7 +27,7 @@ var (
 	anAside   = regexp.MustCompile(`^(?s:<!--.*?-->|<\?.*?\?>)`)
 	someWhite = regexp.MustCompile(`^[ \t\n]+`)
 	aBegin    = regexp.MustCompile(`^<(` + aName + `)`)
-	anAttr    = regexp.MustCompile(`^[ \t\n]*(` + aName + `)[ \t\n]*=[ \t\n]*(?:"([^"]*)"|'([^']*)')`)
+	anAttr    = regexp.MustCompile(`^[ \t\n]+(` + aName + `)[ \t\n]*=[ \t\n]*(?:"([^"]*)"|'([^']*)')`)
 	aBeginEnd = regexp.MustCompile(`^[ \t\n]*(/?)>`)
 	anEnd     = regexp.MustCompile(`^</(` + aName + `)[ \t\n]*>`)
 	aText     = regexp.MustCompile(`^[^<]+<`)
@@ -627,8 +627,6 @@ func TestXm2Attributes(t *testing.T) {
 		`<a b="1" c="2"/>`: elem("a", attr("b", "1"), attr("c", "2")), `<a c='1' b='1' a='1'>x</a>`: elem("a", attr("c", "1"), attr("b", "1"), attr("a", "1"), "x"),
 		`<a b="1" B="2"/>`: elem("a", attr("b", "1"), attr("B", "2")), `<a b="1"><a b="1"/></a>`: elem("a", attr("b", "1"), elem("a", attr("b", "1"))),
 		`<a xmlns:b="x" b:c="y"/>`: elem("a", attr("xmlns:b", "x"), attr("b:c", "y")),
-		// White is any number of runes of it in all places of the chapter, ahead of an attribute, too.
-		`<a b="1"c="2"/>`: elem("a", attr("b", "1"), attr("c", "2")), `<a b='1'c='2'd='3'>x</a>`: elem("a", attr("b", "1"), attr("c", "2"), attr("d", "3"), "x"),
 	} {
 		parses(t, s, want)
 	}
@@ -639,6 +637,27 @@ func TestXm2Attributes(t *testing.T) {
 	} {
 		refuses(t, s, api.ErrText)
 	}
+}
+
+// Ahead of an attribute there is white, one rune of it or more; in the other places there may be none.
+func TestXm2WhiteAheadOfAttributes(t *testing.T) {
+	two := elem("a", attr("b", "1"), attr("c", "2"))
+	for _, white := range []string{" ", "\t", "\n", "\r", "\r\n", "  ", " \t\r\n"} {
+		for _, frame := range []string{`<a%b='1'%c='2'/>`, `<a%b="1"%c="2"/>`, `<a%b='1'%c="2"%/>`, `<a%b="1"%c='2'></a>`, `<a%b='1'%c='2'%></a%>`, `<a%b%=%'1'%c%=%'2'%/>`} {
+			parses(t, strings.ReplaceAll(frame, "%", white), two)
+		}
+	}
+	for _, s := range []string{
+		`<a b=''c=''/>`, `<a b="1"c="2"/>`, `<a b='1'c="2"/>`, `<a b="1"c='2'/>`, `<a b='1'c='2'>x</a>`, `<a b='1'c='2' />`, `<a b='1'c = '2'/>`, `<a b='1'c='2'd='3'/>`, `<a b='1' c='2'd='3'/>`, `<a b='1'c='2' d='3'/>`, `<a b='1'_='2'/>`,
+		`<a b='1'c`, `<a b='1'c/>`, `<a b='1'c>`, `<a b='1'b='1'/>`, `<a b='1'c='&'/>`, `<r><a b='1'c='2'/></r>`, `<r>x<a b='1'c='2'>y</a></r>`, `<a b='1'&#32;c='2'/>`, `<a b='1'<!-- -->c='2'/>`, "<a b='1'\u00a0c='2'/>", "<a b='1'\x0cc='2'/>",
+	} {
+		refuses(t, s, api.ErrText)
+	}
+	// What is wrong first is told: that the white is missing ahead of what stands behind, one too many or too deep.
+	refuses(t, "<a b='1'c='2'>"+pile(20), api.ErrText)
+	refuses(t, pile(16)+"<a b='1'c='2'>", api.ErrDeep)
+	refuses(t, full(4094, "<b c=''d=''/>"), api.ErrText)
+	refuses(t, full(4094, "<b c='' d=''e=''/>"), api.ErrLong)
 }
 
 func TestXm2Refuses(t *testing.T) {
